@@ -1,46 +1,16 @@
 package kind
 
 import (
-	"iter"
 	"strings"
 
 	"stepstone/api"
+	"stepstone/walk"
 )
 
 // wholeDigits is how many digits a numeral has at most that is an integer.
 const wholeDigits = 9
 
-func (c *checker) kind(e api.Expr) api.Kind {
-	var kinds []api.Kind
-	for x := range kidsFirst(&e) {
-		first := len(kinds) - len(x.Kids)
-		kinds = append(kinds[:first], c.above(x, kinds[first:]))
-	}
-	return kinds[0]
-}
-
-// kidsFirst produces an expression and all that are in it: each one behind its kids. These wait in a list, as an expression may be deeper than a stack can be.
-func kidsFirst(e *api.Expr) iter.Seq[*api.Expr] {
-	type entered struct {
-		e    *api.Expr
-		kids int
-	}
-	return func(yield func(e *api.Expr) bool) {
-		for path := []entered{{e, 0}}; len(path) > 0; {
-			last := len(path) - 1
-			top := path[last]
-			if top.kids < len(top.e.Kids) {
-				path[last].kids++
-				path = append(path, entered{&top.e.Kids[top.kids], 0})
-				continue
-			}
-			path = path[:last]
-			if !yield(top.e) {
-				return
-			}
-		}
-	}
-}
+func (c *checker) kind(e api.Expr) api.Kind { return walk.Up(&e, c.above) }
 
 // above is the kind of an expression whose kids have some kinds.
 func (c *checker) above(e *api.Expr, kids []api.Kind) api.Kind {
@@ -79,7 +49,7 @@ func (c *checker) count(e api.Expr) { needCount(c.kind(e), e.At) }
 
 // needExact is for what has to have a value that is computed exactly.
 func (c *checker) needExact(e api.Expr) {
-	for x := range kidsFirst(&e) {
+	for x := range walk.KidsFirst(&e) {
 		need(x.Op != api.ExCall || !c.functions[x.Name].isInexact, api.ErrType, x.At)
 	}
 }
